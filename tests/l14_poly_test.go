@@ -663,8 +663,8 @@ func TestPolyDivideLeavesWhatItIsThere(t *testing.T) {
 	}
 }
 
-// sharesNumbers says whether two lists, with the room behind them, have memory in common.
-func sharesNumbers(a []int, b []int) bool {
+// listsShare says whether two lists, with the room behind them, have memory in common.
+func listsShare[E any](a []E, b []E) bool {
 	if cap(a) == 0 || cap(b) == 0 {
 		return false
 	}
@@ -710,11 +710,11 @@ func TestPolyAnswersAreNewMemory(t *testing.T) {
 			a, b := roomyNumbers(first), roomyNumbers(second)
 			answers := polyAnswers(a, b)
 			for i, answer := range answers {
-				if sharesNumbers(answer, a) || sharesNumbers(answer, b) {
+				if listsShare(answer, a) || listsShare(answer, b) {
 					t.Errorf("of %v and %v answer %d shares memory with what was handed in", first, second, i)
 				}
 				for j := range i {
-					if sharesNumbers(answer, answers[j]) {
+					if listsShare(answer, answers[j]) {
 						t.Errorf("of %v and %v answers %d and %d share memory", first, second, j, i)
 					}
 				}
